@@ -177,15 +177,62 @@ func TestGoodTests(t *testing.T) {
 		{[]impl.Test{test(math.MinInt, 0, 0)}, 6, false},
 		{[]impl.Test{eq(0, 0), eq(0, 0), test(5, 0, 0)}, 6, false},
 		{[]impl.Test{eq(6, 0), eq(0, 0)}, 6, false},
-		{nil, -1, false},
-		{nil, impl.MaxColumns + 1, false},
-		{[]impl.Test{eq(0, 0)}, impl.MaxColumns + 1, false},
-		{[]impl.Test{eq(6, 0)}, math.MaxInt, false},
-		{[]impl.Test{eq(-2, 0)}, -1, false},
-		{nil, math.MinInt, false},
 	} {
 		if got := impl.GoodTests(c.l, c.columns); got != c.want {
 			t.Errorf("GoodTests(%v, %d) = %v", c.l, c.columns, got)
+		}
+	}
+}
+
+// The chapter bounds no number of columns: tests are good or not by themselves.
+func TestGoodTestsAtAnyColumns(t *testing.T) {
+	beyond, last := impl.MaxColumns+1, math.MaxInt-1
+	for _, c := range []struct {
+		l       []impl.Test
+		columns int
+		want    bool
+	}{
+		{nil, beyond, true},
+		{nil, math.MaxInt, true},
+		{nil, -1, true},
+		{[]impl.Test{}, -1, true},
+		{nil, math.MinInt, true},
+		{[]impl.Test{eq(0, 0)}, beyond, true},
+		{[]impl.Test{eq(6, 0), lt(6, 0), gt(6, 0), same(6, 0), same(0, 6), same(6, 6)}, beyond, true},
+		{slices.Repeat([]impl.Test{same(6, 6)}, maxTests), beyond, true},
+		{[]impl.Test{eq(last, 0), same(0, last), same(last, last)}, math.MaxInt, true},
+		{slices.Repeat([]impl.Test{same(6, 6)}, maxTests+1), beyond, false},
+		{make([]impl.Test, maxTests+1), -1, false},
+		{[]impl.Test{eq(7, 0)}, beyond, false},
+		{[]impl.Test{eq(-1, 0)}, beyond, false},
+		{[]impl.Test{same(7, 0)}, beyond, false},
+		{[]impl.Test{same(0, 7)}, beyond, false},
+		{[]impl.Test{same(0, -1)}, beyond, false},
+		{[]impl.Test{eq(6, impl.MaxCell+1)}, beyond, false},
+		{[]impl.Test{lt(6, -impl.MaxCell-1)}, beyond, false},
+		{[]impl.Test{test(0, 6, 0)}, beyond, false},
+		{[]impl.Test{test(5, 6, 0)}, beyond, false},
+		{[]impl.Test{eq(math.MaxInt, 0)}, math.MaxInt, false},
+		{[]impl.Test{same(0, math.MaxInt)}, math.MaxInt, false},
+		{[]impl.Test{eq(0, 0)}, -1, false},
+		{[]impl.Test{eq(-1, 0)}, -1, false},
+		{[]impl.Test{eq(-2, 0)}, -1, false},
+		{[]impl.Test{same(-2, -2)}, -1, false},
+		{[]impl.Test{eq(math.MinInt, 0)}, math.MinInt, false},
+	} {
+		if got := impl.GoodTests(c.l, c.columns); got != c.want {
+			t.Errorf("GoodTests(%v, %d) = %v", c.l, c.columns, got)
+		}
+	}
+}
+
+// SelectRows bounds columns by its table, so a number of columns that suits tests does not make a table good.
+func TestSelectRowsOfTooManyColumns(t *testing.T) {
+	for _, columns := range []int{math.MinInt, -1, impl.MaxColumns + 1, math.MaxInt} {
+		for _, l := range [][]impl.Test{nil, {eq(0, 0)}, {eq(6, 0)}, {same(0, 6)}} {
+			if got, ok := impl.SelectRows(impl.Table{Columns: columns}, l); ok || !isNoTable(got) {
+				t.Errorf("SelectRows of %d columns by %v = %v, %v", columns, l, got, ok)
+			}
 		}
 	}
 }
