@@ -96,15 +96,20 @@ func joinTablesByHand(a, b impl.Table, pairs [][]int) (impl.Table, bool) {
 	if !good || len(pairs) > 6 {
 		return impl.Table{}, false
 	}
+	return sumByHand(len(shape), pairUpByHand(a.Rows, b.Rows, pairs))
+}
+
+// pairUpByHand has the joins of all rows of both that belong together, as they come.
+func pairUpByHand(a, b []impl.Weighted, pairs [][]int) []impl.Weighted {
 	var joined []impl.Weighted
-	for _, x := range a.Rows {
-		for _, y := range b.Rows {
+	for _, x := range a {
+		for _, y := range b {
 			if cells, alike := joinByHand(x.Row, y.Row, pairs); alike {
 				joined = append(joined, weighted(x.Weight*y.Weight, cells...))
 			}
 		}
 	}
-	return sumByHand(len(shape), joined)
+	return joined
 }
 
 func isAbove(t impl.Table, r impl.Row) bool {
@@ -444,13 +449,9 @@ func TestJoinTablesAsTold(t *testing.T) {
 	}
 }
 
-func TestJoinTablesRefuses(t *testing.T) {
-	most := impl.MaxWeight
-	a := table(2, weighted(2, 1, 5), weighted(-3, 2, 5))
-	b := table(2, weighted(1, 5, 8))
-	none := table(2)
-	six := table(6, weighted(2, 1, 2, 3, 4, 5, 6))
-	for _, pairs := range [][][]int{
+// badPairsOfTwo are pairs that suit no two tables of two columns each.
+func badPairsOfTwo() [][][]int {
+	return [][][]int{
 		{{2, 0}},
 		{{1, 2}},
 		{{-1, 0}},
@@ -465,7 +466,16 @@ func TestJoinTablesRefuses(t *testing.T) {
 		{{1, 0}, {0, 2}},
 		slices.Repeat([][]int{{1, 0}}, 7),
 		make([][]int, 1000),
-	} {
+	}
+}
+
+func TestJoinTablesRefuses(t *testing.T) {
+	most := impl.MaxWeight
+	a := table(2, weighted(2, 1, 5), weighted(-3, 2, 5))
+	b := table(2, weighted(1, 5, 8))
+	none := table(2)
+	six := table(6, weighted(2, 1, 2, 3, 4, 5, 6))
+	for _, pairs := range badPairsOfTwo() {
 		for _, two := range [][2]impl.Table{{a, b}, {none, b}, {a, none}, {none, none}} {
 			if got, ok := impl.JoinTables(two[0], two[1], pairs); ok || !isNoTable(got) {
 				t.Errorf("JoinTables(%v, %v, %v) = %v, %v", two[0], two[1], pairs, got, ok)
