@@ -637,10 +637,34 @@ func partAndJoin(t *testing.T, one impl.Table, parts [][]int) (impl.Table, bool)
 	return joined, ok
 }
 
+// restored counts what was parted into two or more and joined again: with some rows, with more than six of them, and what there was no room for.
+type restored struct {
+	some, tall, refused int
+}
+
+// check fails if a table in which the dependencies hold is joined as another one.
+func (r *restored) check(t *testing.T, l []impl.Depend, one impl.Table, parts [][]int) {
+	t.Helper()
+	joined, room := partAndJoin(t, one, parts)
+	switch {
+	case !room:
+		r.refused++
+		return
+	case !sameTables(joined, one):
+		t.Fatalf("%v hold in %v, of whose parts %v is joined: %v", l, one, parts, joined)
+	}
+	if len(parts) > 1 && len(one.Rows) > 0 {
+		r.some++
+	}
+	if len(parts) > 1 && len(one.Rows) > 6 {
+		r.tall++
+	}
+}
+
 // Promise 8: what is parted by dependencies that hold is joined again as it was.
 func TestWhatIsPartedIsJoinedAgainAsItWas(t *testing.T) {
 	thrown := dice{804}
-	restored, tall, refused := 0, 0, 0
+	var seen restored
 	for range 1200 {
 		columns := 1 + thrown.below(impl.MaxColumns)
 		l := thrown.depends(columns, 4)
@@ -649,23 +673,10 @@ func TestWhatIsPartedIsJoinedAgainAsItWas(t *testing.T) {
 			t.Fatalf("NormalParts(%v, %d) = %v, %v", l, columns, parts, ok)
 		}
 		one := thrown.onceWhere(l, columns, thrown.oneOf(8, 30), thrown.oneOf(2, 3, 12))
-		joined, room := partAndJoin(t, one, parts)
-		if !room {
-			refused++
-			continue
-		}
-		if !sameTables(joined, one) {
-			t.Fatalf("%v hold in %v, of whose parts %v is joined: %v", l, one, parts, joined)
-		}
-		if len(parts) > 1 && len(one.Rows) > 0 {
-			restored++
-		}
-		if len(parts) > 1 && len(one.Rows) > 6 {
-			tall++
-		}
+		seen.check(t, l, one, parts)
 	}
-	if restored < 400 || tall < 100 {
-		t.Errorf("%d were restored, %d of them with more than six rows, %d had no room", restored, tall, refused)
+	if seen.some < 400 || seen.tall < 100 {
+		t.Errorf("%+v", seen)
 	}
 }
 

@@ -892,7 +892,7 @@ func TestDependenciesHoldInWhatWasChased(t *testing.T) {
 // Promise 9: parts tell the whole if the chase says so.
 func TestPartsTellTheWholeIfTheChaseSaysSo(t *testing.T) {
 	thrown := dice{911}
-	restored, tall, refused := 0, 0, 0
+	var seen restored
 	for range 2500 {
 		columns := 1 + thrown.below(impl.MaxColumns)
 		l, parts := thrown.depends(columns, 5), thrown.parts(columns)
@@ -904,23 +904,10 @@ func TestPartsTellTheWholeIfTheChaseSaysSo(t *testing.T) {
 			continue
 		}
 		one := thrown.onceWhere(l, columns, thrown.oneOf(8, 25), thrown.oneOf(2, 3, 12))
-		joined, room := partAndJoin(t, one, parts)
-		if !room {
-			refused++
-			continue
-		}
-		if !sameTables(joined, one) {
-			t.Fatalf("%v hold in %v, of whose parts %v is joined: %v", l, one, parts, joined)
-		}
-		if len(parts) > 1 && len(one.Rows) > 1 {
-			restored++
-		}
-		if len(parts) > 1 && len(one.Rows) > 6 {
-			tall++
-		}
+		seen.check(t, l, one, parts)
 	}
-	if restored < 200 || tall < 100 {
-		t.Errorf("%d were restored, %d of them with more than six rows, %d had no room", restored, tall, refused)
+	if seen.some < 200 || seen.tall < 100 {
+		t.Errorf("%+v", seen)
 	}
 }
 
