@@ -823,6 +823,17 @@ func checkEvalByHand(t *testing.T, q impl.Query, l []impl.Table) (impl.Table, bo
 	return got, ok
 }
 
+// nearlyAll are a table of one column and one of two, each with all rows of few numbers but one.
+func (d *dice) nearlyAll() []impl.Table {
+	var out []impl.Table
+	for _, one := range []impl.Table{counted(4), crossOfCounted(4, 3+d.below(2))} {
+		at := d.below(len(one.Rows))
+		one.Rows = slices.Delete(slices.Clone(one.Rows), at, at+1)
+		out = append(out, one)
+	}
+	return out
+}
+
 // Of tables that have nearly all rows there are too many ways or rows now and then.
 func TestEvalQueryByHandNearItsLimits(t *testing.T) {
 	thrown := dice{1016}
@@ -832,13 +843,7 @@ func TestEvalQueryByHandNearItsLimits(t *testing.T) {
 		if len(varsByHand(q.Atoms)) < 4 {
 			continue
 		}
-		var l []impl.Table
-		for _, one := range []impl.Table{counted(4), crossOfCounted(4, 3+thrown.below(2))} {
-			at := thrown.below(len(one.Rows))
-			one.Rows = slices.Delete(slices.Clone(one.Rows), at, at+1)
-			l = append(l, one)
-		}
-		got, ok := checkEvalByHand(t, q, l)
+		got, ok := checkEvalByHand(t, q, thrown.nearlyAll())
 		seen[ok]++
 		if len(got.Rows) > 30 {
 			much++
@@ -872,13 +877,6 @@ func TestEvalQueryHangsOnNoOrder(t *testing.T) {
 	}
 }
 
-func checkEvalRefused(t *testing.T, q impl.Query, l []impl.Table) {
-	t.Helper()
-	if got, ok := impl.EvalQuery(q, l); !isNoTable(got) || ok {
-		t.Errorf("EvalQuery(%v, %v) = %v, %v", q, l, got, ok)
-	}
-}
-
 // fullRows is a table of two rows, or none of these columns.
 func fullRows(columns int) impl.Table {
 	if columns < 0 || columns > 100 {
@@ -887,36 +885,61 @@ func fullRows(columns int) impl.Table {
 	return table(columns, weighted(1, make([]int, columns)...), weighted(1, slices.Repeat([]int{1}, columns)...))
 }
 
-func TestEvalQueryRefuses(t *testing.T) {
+func fullTables(tables []int) []impl.Table {
+	var out []impl.Table
+	for _, columns := range tables {
+		out = append(out, fullRows(columns))
+	}
+	return out
+}
+
+// askedRows is a question with tables for it, good or not.
+type askedRows struct {
+	q impl.Query
+	l []impl.Table
+}
+
+// badAsked are questions and tables of which one is not good, or that do not suit each other.
+func badAsked() []askedRows {
+	out := []askedRows{
+		{query("0", "a0"), tables(table(2))},
+		{query("0", "a01", "b1"), tables(table(2), table(2))},
+		{query("0", "a01", "b12"), tables(table(2), table(3))},
+		{query("0", "a01", "b12"), tables(table(2))},
+	}
 	for _, one := range badQueries() {
-		var empty, full []impl.Table
+		var empty []impl.Table
 		for _, columns := range one.tables {
-			empty, full = append(empty, table(columns)), append(full, fullRows(columns))
+			empty = append(empty, table(columns))
 		}
-		checkEvalRefused(t, one.q, empty)
-		checkEvalRefused(t, one.q, full)
+		out = append(out, askedRows{one.q, empty}, askedRows{one.q, fullTables(one.tables)})
 	}
 	for _, bad := range badTables() {
-		checkEvalRefused(t, query("0", "a0"), tables(bad))
-		checkEvalRefused(t, query("0", "a01"), tables(bad))
-		checkEvalRefused(t, query("", "a012"), tables(bad))
-		// Of which no atom is.
-		checkEvalRefused(t, query("0", "a0"), tables(counted(3), bad))
-		checkEvalRefused(t, query("0", "b0"), tables(bad, counted(3)))
-		checkEvalRefused(t, query("0", "b0"), tables(table(2), counted(3), table(3), bad))
+		out = append(out,
+			askedRows{query("0", "a0"), tables(bad)}, askedRows{query("0", "a01"), tables(bad)}, askedRows{query("", "a012"), tables(bad)},
+			// Of which no atom is.
+			askedRows{query("0", "a0"), tables(counted(3), bad)}, askedRows{query("0", "b0"), tables(bad, counted(3))},
+			askedRows{query("0", "b0"), tables(table(2), counted(3), table(3), bad)})
 	}
 	for _, one := range goodQueries() {
-		var l []impl.Table
-		for _, columns := range one.tables {
-			l = append(l, fullRows(columns))
+		l := fullTables(one.tables)
+		out = append(out,
+			askedRows{one.q, nil}, askedRows{one.q, []impl.Table{}}, askedRows{one.q, slices.Concat(l, l, l, l, l)},
+			askedRows{one.q, append(slices.Clone(l), table(4))}, askedRows{one.q, append(slices.Clone(l), table(0))})
+	}
+	return out
+}
+
+func TestEvalQueryRefuses(t *testing.T) {
+	for _, one := range badAsked() {
+		if got, ok := impl.EvalQuery(one.q, one.l); !isNoTable(got) || ok {
+			t.Errorf("EvalQuery(%v, %v) = %v, %v", one.q, one.l, got, ok)
 		}
-		if _, ok := impl.EvalQuery(one.q, l); !ok {
-			t.Errorf("EvalQuery(%v, %v) is refused", one.q, l)
+	}
+	for _, one := range goodQueries() {
+		if _, ok := impl.EvalQuery(one.q, fullTables(one.tables)); !ok {
+			t.Errorf("EvalQuery(%v) is refused", one.q)
 		}
-		checkEvalRefused(t, one.q, nil)
-		checkEvalRefused(t, one.q, slices.Concat(l, l, l, l, l))
-		checkEvalRefused(t, one.q, append(slices.Clone(l), table(4)))
-		checkEvalRefused(t, one.q, append(slices.Clone(l), table(0)))
 	}
 }
 
@@ -1484,14 +1507,14 @@ func anyQueries() []askedQuery {
 }
 
 func (d *dice) anyTablesFor(tables []int) [][]impl.Table {
-	var empty, full, filled []impl.Table
+	var empty, filled []impl.Table
 	for _, columns := range tables {
-		empty, full = append(empty, table(columns)), append(full, fullRows(columns))
+		empty = append(empty, table(columns))
 	}
 	if hasAll([]int{1, 2, 3}, tables) {
 		filled = d.filled(tables, 12, 0, 3)
 	}
-	return [][]impl.Table{nil, empty, full, filled, goodTables()[:3], badTables()[:2], badTables()[7:9]}
+	return [][]impl.Table{nil, empty, fullTables(tables), filled, goodTables()[:3], badTables()[:2], badTables()[7:9]}
 }
 
 // Promise 19: each function of chapter 10 answers at any arguments, the same each time, in new memory, and writes into none.
