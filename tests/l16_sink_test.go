@@ -161,11 +161,9 @@ func stepSinkByHand(s impl.Sink, kind int) (impl.Sink, bool) {
 		p.nos = p.nos[1:]
 	case kind == 4:
 		p.move(atPending, atNotRead)
-	case kind == 5:
-		if stored > 1 {
-			p.move(p.nos[stored-1], atNotRead)
-			p.nos = p.nos[:stored-1]
-		}
+	case kind == 5 && stored > 1:
+		p.move(p.nos[stored-1], atNotRead)
+		p.nos = p.nos[:stored-1]
 		p.move(atPending, atNotRead)
 	default:
 		return s, false
@@ -628,7 +626,7 @@ func TestSinkCrashAsTold(t *testing.T) {
 	})
 }
 
-// Where fewer than two are Stored a torn one is as a crash: the only one stays.
+// A torn one can be done where two or more are Stored: the last of them is lost, and what is Pending.
 func TestSinkTornAsTold(t *testing.T) {
 	checkSinkSteps(t, impl.SinkTorn, []sinkStepCase{
 		{"7,8,9 | #0 | 1=7 2=8 | 9", "7,8,9 | #0 | 1=7 | "},
@@ -638,12 +636,22 @@ func TestSinkTornAsTold(t *testing.T) {
 		{"1,2,3,4,5 | #0 | 1=1 2=2 3=3 4=4 | 5", "1,2,3,4,5 | #0 | 1=1 2=2 3=3 | "},
 		{"1,2,3,4,5 | 1 #9 | 10=2 11=3 12=4 | 5", "1,2,3,4,5 | 1 #9 | 10=2 11=3 | "},
 		{"1,2,3 | #998 | 999=1 1000=2 | 3", "1,2,3 | #998 | 999=1 | "},
-		{"7,8,9 | #0 | 1=7 | 8", "7,8,9 | #0 | 1=7 | "},
-		{"7,8,9 | #0 | 1=7 | ", "7,8,9 | #0 | 1=7 | "},
-		{"7,8,9 | 7 #1 | | 8", "7,8,9 | 7 #1 | | "},
-		{"7,8,9 | #0 | | 7,8", "7,8,9 | #0 | | "},
-		{"7,8,9 | #0 | | ", "7,8,9 | #0 | | "},
-		{" | #0 | | ", " | #0 | | "},
+		{"1,2,3,4 | #0 | 1=1 2=2 3=3 | 4", "1,2,3,4 | #0 | 1=1 2=2 | "},
+		{"7,8 | #0 | 1= 2= | 7,8", "7,8 | #0 | 1= | "},
+		// One is Stored.
+		{"7,8,9 | #0 | 1=7 | 8", ""},
+		{"7,8,9 | #0 | 1=7 | ", ""},
+		{"7,8,9 | 7 #1 | 2= | 8", ""},
+		{"7,8,9 | 7 #1 | 2=8,9 | ", ""},
+		{"7,8 | #999 | 1000=7 | 8", ""},
+		{" | #0 | 1= | ", ""},
+		// Nothing is Stored.
+		{"7,8,9 | 7 #1 | | 8", ""},
+		{"7,8,9 | #0 | | 7,8", ""},
+		{"7,8,9 | #0 | | ", ""},
+		{"7,8,9 | 7,8,9 #3 | | ", ""},
+		{"7,8 | 7 #1000 | | 8", ""},
+		{" | #0 | | ", ""},
 	})
 }
 
@@ -672,7 +680,7 @@ func TestStepSinkByHand(t *testing.T) {
 			}
 		}
 	}
-	if slices.Min(did[1:]) < 1000 || slices.Min(refused[1:4]) < 1000 || refused[4]+refused[5] != 0 {
+	if slices.Min(did[1:]) < 1000 || min(refused[1], refused[2], refused[3], refused[5]) < 1000 || refused[4] != 0 {
 		t.Error(did, refused)
 	}
 }
@@ -686,13 +694,17 @@ func TestPlaySinkAsTold(t *testing.T) {
 		{"7,8,9", "rprxcrp", "1111111", "7,8,9 | 7 #1 | 2=8 | "},
 		{"7,8,9", "rrprc", "11111", "7,8,9 | 7,8 #1 | | 9"},
 		// What can't be done leaves all as it was.
-		{"", "rpcxt?", "000110", " | #0 | | "},
+		{"", "rpcxt?", "000100", " | #0 | | "},
 		{"7,8", "pcrpprrc?cpcrc", "00110101001100", "7,8 | 7,8 #2 | | "},
 		{"7", "rrpprcc", "1010010", "7 | 7 #1 | | "},
+		{"7,8", "t", "0", "7,8 | #0 | | "},
+		{"7,8", "rt", "10", "7,8 | #0 | | 7"},
+		{"7,8", "rprt", "1110", "7,8 | #0 | 1=7 | 8"},
+		{"7,8,9", "rprpxcrt", "11111110", "7,8,9 | 7 #1 | 2=8 | 9"},
+		{"7,8,9", "rprprpttt", "111111110", "7,8,9 | #0 | 1=7 | "},
 		// What is lost is read anew.
-		{"7,8,9", "rrxrprtrpt", "1111111111", "7,8,9 | #0 | 1=7 | "},
+		{"7,8,9", "rrxrprtrpt", "1111110111", "7,8,9 | #0 | 1=7 | "},
 		{"7,8,9", "rprptcrpc", "111111111", "7,8,9 | 7,8 #2 | | "},
-		{"7,8,9", "rprpxcrt", "11111111", "7,8,9 | 7 #1 | 2=8 | "},
 		// 4 may be Stored.
 		{"1,2,3,4,5", "rprprprprp", "1111111110", "1,2,3,4,5 | #0 | 1=1 2=2 3=3 4=4 | 5"},
 		{"1,2,3,4,5", "rprprprprpcp", "111111111011", "1,2,3,4,5 | 1 #1 | 2=2 3=3 4=4 5=5 | "},
@@ -711,13 +723,16 @@ type playedSink struct {
 	source, kinds []int
 }
 
-// anyPlayedSinks have all lists of up to five kinds, and thrown ones of up to 120.
+// anyPlayedSinks have all lists of up to five kinds, of a new sink and behind two that are Stored, and thrown ones of up to 120.
 func anyPlayedSinks(many int, thrown dice) []playedSink {
 	var out []playedSink
 	for _, source := range [][]int{nil, {7}, {7, 7}, {7, 8, 9}} {
 		for _, l := range listsUpTo(5, kindsOf("rpcxt")) {
 			out = append(out, playedSink{source, l})
 		}
+	}
+	for _, l := range listsUpTo(5, kindsOf("rpcxt")) {
+		out = append(out, playedSink{counting(4), slices.Concat(kindsOf("rprp"), l)})
 	}
 	for range many {
 		out = append(out, playedSink{thrown.source(), thrown.kinds(thrown.below(121))})
@@ -755,7 +770,7 @@ func TestPlaySinkIsStepSinkKindByKind(t *testing.T) {
 			t.Fatalf("PlaySink(%v) = %v, %v, %v, kind by kind %v, %v", p, got, told, ok, s, of)
 		}
 	}
-	if slices.Min(did[1:]) < 1000 || slices.Min(refused[:4]) < 1000 || did[0]+refused[4]+refused[5] != 0 {
+	if slices.Min(did[1:]) < 1000 || min(slices.Min(refused[:4]), refused[5]) < 1000 || did[0]+refused[4] != 0 {
 		t.Error(did, refused)
 	}
 }
@@ -1094,8 +1109,14 @@ func TestWhatWasPreparedIsGivenOutAnew(t *testing.T) {
 			t.Fatalf("OutOf RecoverSink(%v) = %v, %d, not %v", s, out, left, want)
 		}
 		for _, kind := range []int{impl.SinkCrash, impl.SinkTorn} {
-			stopped, _ := impl.StepSink(s, kind)
-			if kind == impl.SinkTorn && len(stopped.Stored) < len(s.Stored) {
+			stopped, done := impl.StepSink(s, kind)
+			if done != (kind == impl.SinkCrash || len(s.Stored) > 1) {
+				t.Fatalf("StepSink(%v, %d) = %v, %v", s, kind, stopped, done)
+			}
+			if !done {
+				continue
+			}
+			if kind == impl.SinkTorn {
 				torn++
 			}
 			for _, begun := range []impl.Sink{s, recovered, stopped} {
